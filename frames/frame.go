@@ -1,7 +1,10 @@
 // Package frames makes frames and takes them out of streams that come in pieces.
 package frames
 
-import "relay/api"
+import (
+	"relay/api"
+	"relay/words"
+)
 
 // Where the parts of a frame begin.
 const (
@@ -19,27 +22,20 @@ const (
 	maxFrame  = unitAt + maxLength
 )
 
-const (
-	maxByte = 255
-	maxWord = 65535
-)
+const maxByte = 255
 
 // Encode gives the frame with this mark, unit and data.
 func Encode(mark int, unit int, data []byte) ([]byte, api.Errno) {
 	length := len(data) + 1
-	if !within(mark, 0, maxWord) || !within(unit, 0, maxByte) || !within(length, minLength, maxLength) {
+	if !within(mark, 0, words.Max) || !within(unit, 0, maxByte) || !within(length, minLength, maxLength) {
 		return nil, api.ErrFrame
 	}
 	frame := make([]byte, 0, unitAt+length)
-	frame = appendWord(frame, mark)
-	frame = appendWord(frame, 0)
-	frame = appendWord(frame, length)
+	frame = words.Append(frame, mark)
+	frame = words.Append(frame, 0)
+	frame = words.Append(frame, length)
 	frame = append(frame, byte(unit))
 	return append(frame, data...), api.OK
 }
 
 func within(n, lo, hi int) bool { return lo <= n && n <= hi }
-
-func appendWord(list []byte, w int) []byte { return append(list, byte(w>>8), byte(w)) }
-
-func word(high, low byte) int { return int(high)<<8 | int(low) }

@@ -4,6 +4,7 @@ import (
 	"bytes"
 
 	"relay/api"
+	"relay/words"
 )
 
 // Splitter takes frames out of one stream. Its zero value has had no bytes.
@@ -51,21 +52,21 @@ func (s *Splitter) fits(b byte) bool {
 	case lengthAt:
 		// A first byte can only be too high: whatever it is,
 		// some length of minLength or more begins with it.
-		return word(b, 0) <= maxLength
+		return words.Join(b, 0) <= maxLength
 	case lengthAt + 1:
-		return within(word(s.held[lengthAt], b), minLength, maxLength)
+		return within(words.Join(s.held[lengthAt], b), minLength, maxLength)
 	}
 	return true
 }
 
 func (s *Splitter) isWhole() bool {
-	return s.count >= dataAt && s.count == unitAt+word(s.held[lengthAt], s.held[lengthAt+1])
+	return s.count >= dataAt && s.count == unitAt+words.Join(s.held[lengthAt], s.held[lengthAt+1])
 }
 
 // give hands out the whole frame that is held, and forgets it.
 func (s *Splitter) give() api.Frame {
 	frame := api.Frame{
-		Mark: word(s.held[markAt], s.held[markAt+1]),
+		Mark: words.Join(s.held[markAt], s.held[markAt+1]),
 		Unit: int(s.held[unitAt]),
 		Data: bytes.Clone(s.held[dataAt:s.count]),
 	}

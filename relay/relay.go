@@ -2,15 +2,19 @@
 package relay
 
 import (
+	"errors"
+
 	"relay/api"
+	"relay/banks"
 	"relay/frames"
+	"relay/refusals"
 )
 
 // Splitter takes frames out of a stream that comes in pieces.
 type Splitter struct{ stream frames.Splitter }
 
 // Bank keeps tables, and answers.
-type Bank struct{}
+type Bank struct{ store *banks.Bank }
 
 // Frame gives a frame (P3).
 func Frame(mark int, unit int, data []byte) ([]byte, api.Errno) {
@@ -30,16 +34,48 @@ func (s *Splitter) Feed(chunk []byte) ([]api.Frame, api.Errno) {
 }
 
 // New makes a bank (P5).
-func New(c api.Config) (*Bank, api.Errno) { return nil, api.OK }
+func New(c api.Config) (*Bank, api.Errno) {
+	store, errno := banks.New(c)
+	if errno != api.OK {
+		return nil, errno
+	}
+	return &Bank{store: store}, api.OK
+}
+
+// kept gives what the bank keeps. Where New made none there are
+// no tables and no clients, since no call may panic.
+func (b *Bank) kept() *banks.Bank {
+	if b == nil || b.store == nil {
+		return &banks.Bank{}
+	}
+	return b.store
+}
 
 // Set sets entries (P6).
-func (b *Bank) Set(table int, address int, values []int) api.Errno { return api.OK }
+func (b *Bank) Set(table int, address int, values []int) api.Errno {
+	return b.kept().Set(table, address, values)
+}
 
 // Get gives entries (P6).
-func (b *Bank) Get(table int, address int, count int) ([]int, api.Errno) { return nil, api.OK }
+func (b *Bank) Get(table int, address int, count int) ([]int, api.Errno) {
+	return b.kept().Get(table, address, count)
+}
 
 // Answer answers a request (P7).
-func (b *Bank) Answer(client int, request []byte) ([]byte, api.Errno) { return nil, api.OK }
+func (b *Bank) Answer(client int, request []byte) ([]byte, api.Errno) {
+	if !b.kept().HasClient(client) {
+		return nil, api.ErrClient
+	}
+	if len(request) < 1 || len(request) > api.MaxData {
+		return nil, api.ErrFrame
+	}
+	answer, err := b.kept().Do(client, request[0], request[1:])
+	var refusal *refusals.Refusal
+	if errors.As(err, &refusal) {
+		return refusal.Answer(), api.OK
+	}
+	return answer, api.OK
+}
 
 // Serve serves connections (P8, P9).
 func (b *Bank) Serve(conns []api.Conn, picks []int, stop int) ([][]byte, api.Errno) {
