@@ -98,17 +98,25 @@ func (b *Bank) do(client int, function byte, behind []byte) ([]byte, error) {
 	if err := b.check(client, request); err != nil {
 		return nil, refusals.Wrap("table "+strconv.Itoa(request.Table), err)
 	}
-	return request.Answer(b.tables[request.Table].Pack(request.Address, request.Count)), nil
+	return carryOut(b.tables[request.Table], request), nil
 }
 
 // check asks for the entries ahead of the rules: a client that may do nothing
 // is told all the same that an entry is not there.
 func (b *Bank) check(client int, r requests.Request) error {
-	if !b.tables[r.Table].Has(r.Address, r.Count) {
+	table, list := b.tables[r.Table], b.clients[client]
+	if !table.Has(r.Reads.Address, r.Reads.Count) || !table.Has(r.Writes.Address, r.Writes.Count) {
 		return refusals.Wrap("no such entry", r.Refuse(api.Address))
 	}
-	if !b.clients[client].MayRead(r.Table, r.Address, r.Count) {
+	if !list.MayRead(r.Table, r.Reads.Address, r.Reads.Count) || !list.MayWrite(r.Table, r.Writes.Address, r.Writes.Count) {
 		return refusals.Wrap("not allowed", r.Refuse(api.Denied))
 	}
 	return nil
+}
+
+// carryOut writes ahead of reading, so that a client that does both reads what it wrote.
+func carryOut(table tables.Table, r requests.Request) []byte {
+	old := table.Get(r.Writes.Address, r.Writes.Count)
+	table.Set(r.Writes.Address, r.Written(old))
+	return r.Answer(table.Pack(r.Reads.Address, r.Reads.Count))
 }

@@ -26,6 +26,14 @@ func TestRefusalsAreWrapped(t *testing.T) {
 		{3, []byte{0, 0, 0, 0}, api.Value, "client 0: a request that is not understood: too few or too many entries: function 3: exception 3"},
 		{3, []byte{0, 5, 0, 1}, api.Address, "client 0: table 3: no such entry: function 3: exception 2"},
 		{3, []byte{0, 1, 0, 1}, api.Denied, "client 0: table 3: not allowed: function 3: exception 4"},
+		{5, []byte{0, 0, 0, 1}, api.Value, "client 0: a request that is not understood: neither on nor off: function 5: exception 3"},
+		{5, []byte{0, 0, 0, 0}, api.Address, "client 0: table 0: no such entry: function 5: exception 2"},
+		{6, []byte{0, 2, 0, 0, 0}, api.Value, "client 0: a request that is not understood: too few or too many bytes: function 6: exception 3"},
+		{6, []byte{0, 2, 0, 0}, api.Denied, "client 0: table 3: not allowed: function 6: exception 4"},
+		{15, []byte{0, 0, 0, 1, 2, 1, 1}, api.Value, "client 0: a request that is not understood: too few or too many bytes: function 15: exception 3"},
+		{16, []byte{0, 2, 0, 0, 0}, api.Value, "client 0: a request that is not understood: too few or too many entries: function 16: exception 3"},
+		{22, []byte{0, 2, 0, 0, 0, 0}, api.Denied, "client 0: table 3: not allowed: function 22: exception 4"},
+		{23, []byte{0, 2, 0, 1, 0, 5, 0, 1, 2, 1, 1}, api.Address, "client 0: table 3: no such entry: function 23: exception 2"},
 	} {
 		answer, err := b.Do(0, c.function, c.behind)
 		var refusal *refusals.Refusal

@@ -69,7 +69,9 @@ func TestGetGivesCopies(t *testing.T) {
 
 func TestAnswerLeavesRequestAlone(t *testing.T) {
 	b := documentBank(t)
-	for _, list := range [][]byte{nil, {7}, {3}, {1, 0, 0, 0, 9}, {3, 0, 2, 0, 2}, {4, 0, 9, 0, 1}, {2, 0, 0, 0, 0}, counting(254)} {
+	lists := [][]byte{nil, {7}, {3}, {1, 0, 0, 0, 9}, {3, 0, 2, 0, 2}, {4, 0, 9, 0, 1}, {2, 0, 0, 0, 0}, counting(254)}
+	lists = slices.Concat(lists, writes(3), writes(99), [][]byte{{5, 0, 0, 1, 1}, {15, 0, 0, 0, 9, 2, 255, 255}, {16, 0, 3, 0, 1, 3, 1, 2}})
+	for _, list := range lists {
 		for client := range 3 {
 			request, whole := roomy(list)
 			before := bytes.Clone(whole)
@@ -90,12 +92,32 @@ func TestAnswerLeavesRequestAlone(t *testing.T) {
 	}
 }
 
+// TestAnswerKeepsNoRequest: what is written into a request that was done is not in the bank.
+func TestAnswerKeepsNoRequest(t *testing.T) {
+	for _, list := range writes(3) {
+		b := documentBank(t)
+		request, whole := roomy(list)
+		answer, _ := b.Answer(0, request)
+		before := snapshot(t, b, [4]int{20, 10, 5, 8})
+		fill(whole, 0x11)
+		fill(answer[:cap(answer)], 0x22)
+		for table, entries := range before.tables {
+			if got, _ := b.Get(table, 0, len(entries)); !slices.Equal(got, entries) {
+				t.Errorf("P2: the bank shares memory with the request %v, or with its answer: table %d is %v, want %v", list, table, got, entries)
+			}
+		}
+	}
+}
+
 func TestAnswersShareNothing(t *testing.T) {
 	b := documentBank(t)
 	for table := range api.Tables {
 		wantSet(t, b, table, 0, api.OK, 1, 0, 1, 1, 1)
 	}
 	requests := [][]byte{{1, 0, 0, 0, 9}, {2, 0, 0, 0, 10}, {3, 0, 0, 0, 5}, {4, 0, 0, 0, 5}, {7}, {3}, {3, 0, 9, 0, 1}}
+	// The entry 4 is what these leave it as.
+	requests = append(requests, request(5, 4, 65280), request(6, 4, 1), request(22, 4, 65535, 0),
+		carrying(request(15, 4, 1), 1), carrying(request(16, 4, 1), 0, 1), carrying(request(23, 0, 5, 4, 1), 0, 1))
 	for _, request := range requests {
 		first, _ := b.Answer(0, request)
 		second, _ := b.Answer(0, request)

@@ -1,6 +1,7 @@
 package relay_test
 
 import (
+	"bytes"
 	"math/rand"
 	"runtime"
 	"slices"
@@ -41,6 +42,9 @@ func TestAnswerAtAllLists(t *testing.T) {
 		r.Read(request)
 		if len(request) > 4 && r.Intn(4) > 0 {
 			request[0], request[1], request[3] = byte(r.Intn(26)), 0, 0
+		}
+		if r.Intn(4) == 0 {
+			request = randomRequest(r, 210)
 		}
 		client := r.Intn(4) - 1
 		got, errno := b.Answer(client, request)
@@ -117,6 +121,43 @@ func TestCallsAtOnce(t *testing.T) {
 	all.Wait()
 }
 
+// TestWritesAtOnce: requests that write are done as a whole too.
+func TestWritesAtOnce(t *testing.T) {
+	const times = 2000
+	b := newBank(t, api.Config{Sizes: [4]int{120, 0, 0, 121}, Limit: 1, Rules: [][]api.Rule{allow()}})
+	var all sync.WaitGroup
+	for i := range 4 {
+		own := bytes.Repeat([]byte{byte(10 + i)}, 2*100)
+		all.Go(func() {
+			for range times {
+				// No other's words come between what is written and what is read.
+				answer, _ := b.Answer(0, carrying(request(23, 0, 100, 0, 100), own...))
+				if !bytes.Equal(answer[2:], own) {
+					t.Errorf("P7: an answer of 23, while others write: %v, want %v", answer[2:], own)
+				}
+				b.Answer(0, carrying(request(15, 0, 120), bytes.Repeat([]byte{byte(255 * (i % 2))}, 15)...))
+				if answer, _ := b.Answer(0, reading(1, 0, 120)); !allAlike(answer[2:]) {
+					t.Errorf("P7: coils, while others write: %v", answer[2:])
+				}
+			}
+		})
+		all.Go(func() {
+			for n := range times {
+				// Each turns bits of its own on and off: none is lost by what the others do.
+				bit := 1 << (4*i + n%4)
+				b.Answer(0, request(22, 120, 65535-bit, bit))
+				holder, _ := b.Get(api.Holders, 120, 1)
+				if holder[0]&bit == 0 {
+					t.Errorf("P7: a bit that 22 set, while others set theirs, is lost: %b of %b", bit, holder[0])
+				}
+				b.Answer(0, request(22, 120, 65535-bit, 0))
+			}
+		})
+	}
+	all.Wait()
+	wantGet(t, b, api.Holders, 120, 0)
+}
+
 func TestNothingOfTheBankGoesOn(t *testing.T) {
 	before := runtime.NumGoroutine()
 	for range 100 {
@@ -125,6 +166,10 @@ func TestNothingOfTheBankGoesOn(t *testing.T) {
 		b.Get(api.Coils, 0, 1)
 		b.Answer(0, reading(1, 0, 1))
 		b.Answer(0, reading(1, 99, 1))
+		for _, q := range append(writes(3), writes(99)...) {
+			b.Answer(0, q)
+			b.Answer(1, q)
+		}
 	}
 	if after := runtime.NumGoroutine(); after > before {
 		t.Errorf("P1: %d goroutines, %d before the calls", after, before)

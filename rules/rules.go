@@ -33,16 +33,28 @@ func isWrong(r api.Rule) bool {
 
 // MayRead says whether the client may read each of the entries.
 func (l List) MayRead(table, address, count int) bool {
+	return l.may(letsRead, table, address, count)
+}
+
+// MayWrite says whether the client may write each of the entries.
+func (l List) MayWrite(table, address, count int) bool {
+	return l.may(letsWrite, table, address, count)
+}
+
+func letsRead(r api.Rule) bool { return r.Read }
+
+func letsWrite(r api.Rule) bool { return r.Write }
+
+// may asks entry by entry, since each may be let by a rule of its own.
+func (l List) may(lets func(api.Rule) bool, table, address, count int) bool {
 	for a := address; a < address+count; a++ {
-		if !l.letsRead(table, a) {
+		if !slices.ContainsFunc(l, func(r api.Rule) bool { return lets(r) && isOver(r, table, a) }) {
 			return false
 		}
 	}
 	return true
 }
 
-func (l List) letsRead(table, address int) bool {
-	return slices.ContainsFunc(l, func(r api.Rule) bool {
-		return r.Read && r.Table == table && r.Lo <= address && address <= r.Hi
-	})
+func isOver(r api.Rule, table, address int) bool {
+	return r.Table == table && r.Lo <= address && address <= r.Hi
 }

@@ -1,7 +1,10 @@
 // Package tables keeps the entries of tables of bits and of words.
 package tables
 
-import "relay/words"
+import (
+	"relay/bits"
+	"relay/words"
+)
 
 // Table is a table of either kind. Only Has and Allows take any numbers:
 // the others are for entries that it has, and for values that it allows.
@@ -52,14 +55,8 @@ type Bits struct{ entries }
 // NewBits makes a table of bits that are all 0.
 func NewBits(size int) *Bits { return &Bits{entries{list: make([]int, size), highest: 1}} }
 
-// Pack gives the entries as a client is told them: eight in a byte, the first one lowest.
-func (b *Bits) Pack(address, count int) []byte {
-	packed := make([]byte, (count+7)/8)
-	for i, v := range b.list[address : address+count] {
-		packed[i/8] |= byte(v) << (i % 8)
-	}
-	return packed
-}
+// Pack gives the entries as a client is told them.
+func (b *Bits) Pack(address, count int) []byte { return bits.Pack(b.Get(address, count)) }
 
 // Words is a table whose entries are words.
 type Words struct{ entries }
@@ -67,11 +64,5 @@ type Words struct{ entries }
 // NewWords makes a table of words that are all 0.
 func NewWords(size int) *Words { return &Words{entries{list: make([]int, size), highest: words.Max}} }
 
-// Pack gives the entries as a client is told them: two bytes each.
-func (w *Words) Pack(address, count int) []byte {
-	packed := make([]byte, 0, count*words.Size)
-	for _, v := range w.list[address : address+count] {
-		packed = words.Append(packed, v)
-	}
-	return packed
-}
+// Pack gives the entries as a client is told them.
+func (w *Words) Pack(address, count int) []byte { return words.Pack(w.Get(address, count)) }
