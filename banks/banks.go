@@ -12,12 +12,13 @@ import (
 	"relay/tables"
 )
 
-// Bank has the tables and the clients. Its zero value has none of either.
+// Bank has the tables and the clients. Its zero value has none of either, and serves no connection.
 type Bank struct {
-	// Calls may come from several goroutines, and each is done as a whole.
+	// Calls and requests may come from several goroutines, and each is done as a whole.
 	lock    sync.Mutex
 	tables  []tables.Table
 	clients []rules.List
+	limit   int
 }
 
 // New makes a bank whose entries are all 0.
@@ -31,7 +32,7 @@ func New(c api.Config) (*Bank, api.Errno) {
 			return nil, api.ErrConfig
 		}
 	}
-	return &Bank{tables: newTables(c.Sizes), clients: clients}, api.OK
+	return &Bank{tables: newTables(c.Sizes), clients: clients, limit: c.Limit}, api.OK
 }
 
 func newTables(sizes [api.Tables]int) []tables.Table {
@@ -45,6 +46,17 @@ func newTables(sizes [api.Tables]int) []tables.Table {
 
 // HasClient says whether there is a list of rules of this client.
 func (b *Bank) HasClient(client int) bool { return 0 <= client && client < len(b.clients) }
+
+// Admit gives those of the connections that are served. Those behind them are not even asked for their clients.
+func (b *Bank) Admit(conns []api.Conn) ([]api.Conn, api.Errno) {
+	served := conns[:min(len(conns), b.limit)]
+	for _, c := range served {
+		if !b.HasClient(c.Client) {
+			return nil, api.ErrClient
+		}
+	}
+	return served, api.OK
+}
 
 func (b *Bank) hasTable(table int) bool { return 0 <= table && table < len(b.tables) }
 

@@ -8,6 +8,7 @@ import (
 	"relay/banks"
 	"relay/frames"
 	"relay/refusals"
+	"relay/turns"
 )
 
 // Splitter takes frames out of a stream that comes in pieces.
@@ -69,15 +70,26 @@ func (b *Bank) Answer(client int, request []byte) ([]byte, api.Errno) {
 	if len(request) < 1 || len(request) > api.MaxData {
 		return nil, api.ErrFrame
 	}
-	answer, err := b.kept().Do(client, request[0], request[1:])
+	return b.answer(client, request), api.OK
+}
+
+// answer does a request that has bytes, of a client that the bank has.
+func (b *Bank) answer(client int, request []byte) []byte {
+	done, err := b.kept().Do(client, request[0], request[1:])
 	var refusal *refusals.Refusal
 	if errors.As(err, &refusal) {
-		return refusal.Answer(), api.OK
+		return refusal.Answer()
 	}
-	return answer, api.OK
+	return done
 }
 
 // Serve serves connections (P8, P9).
 func (b *Bank) Serve(conns []api.Conn, picks []int, stop int) ([][]byte, api.Errno) {
-	return nil, api.OK
+	served, errno := b.kept().Admit(conns)
+	if errno != api.OK {
+		return nil, errno
+	}
+	answers := make([][]byte, len(conns))
+	copy(answers, turns.Serve(served, picks, stop, b.answer))
+	return answers, api.OK
 }
